@@ -68,8 +68,14 @@ type form interface {
 	show(out *strings.Builder)
 	// size counts the form and all within it.
 	size() int
-	// endOf is the list of parts that ends in this form.
+	// deep is how many forms the innermost form is within.
+	deep() int
+	// opened is the parts and the end of a list; an ExpList ends in the list of nothing, and what is no list is an end without parts.
+	opened() (parts []form, end form)
+	// endOf is the list of parts that ends in this form; without parts it is this form.
 	endOf(parts []form) form
+	// eachId visits the identifiers, in order.
+	eachId(visit func(formId))
 	// changed is the form with another one for each of its identifiers.
 	changed(change func(formId) formId) form
 }
@@ -173,12 +179,60 @@ func sizeOfAll(forms []form) int {
 	return size
 }
 
+func (f formId) deep() int {
+	return 0
+}
+
+func (f formAtom) deep() int {
+	return 0
+}
+
+func (f formList) deep() int {
+	return deepAround(f.parts)
+}
+
+func (f formDots) deep() int {
+	return deepAround(f.parts)
+}
+
+// deepAround is how deep a list of these parts is.
+func deepAround(parts []form) int {
+	deepest := 0
+	for _, part := range parts {
+		deepest = max(deepest, 1+part.deep())
+	}
+	return deepest
+}
+
+func (f formId) opened() ([]form, form) {
+	return nil, f
+}
+
+func (f formAtom) opened() ([]form, form) {
+	return nil, f
+}
+
+func (f formList) opened() ([]form, form) {
+	return f.parts, formList{}
+}
+
+func (f formDots) opened() ([]form, form) {
+	return f.parts, f.end
+}
+
 func (f formId) endOf(parts []form) form {
-	return formDots{parts: parts, end: f}
+	return dotsOf(parts, f)
 }
 
 func (f formAtom) endOf(parts []form) form {
-	return formDots{parts: parts, end: f}
+	return dotsOf(parts, f)
+}
+
+func dotsOf(parts []form, end form) form {
+	if len(parts) == 0 {
+		return end
+	}
+	return formDots{parts: parts, end: end}
 }
 
 func (f formList) endOf(parts []form) form {
@@ -187,6 +241,26 @@ func (f formList) endOf(parts []form) form {
 
 func (f formDots) endOf(parts []form) form {
 	return formDots{parts: slices.Concat(parts, f.parts), end: f.end}
+}
+
+func (f formId) eachId(visit func(formId)) {
+	visit(f)
+}
+
+func (f formAtom) eachId(visit func(formId)) {
+}
+
+func (f formList) eachId(visit func(formId)) {
+	for _, part := range f.parts {
+		part.eachId(visit)
+	}
+}
+
+func (f formDots) eachId(visit func(formId)) {
+	for _, part := range f.parts {
+		part.eachId(visit)
+	}
+	f.end.eachId(visit)
 }
 
 func (f formId) changed(change func(formId) formId) form {
@@ -243,9 +317,9 @@ func (o *formOpener) open(f ExpForm, deep int) (form, bool) {
 }
 
 // openId lets the set have the list that was handed in: a set is never written into, and plain tells a list of its own.
-func openId(f ExpForm) (form, bool) {
-	if !isIdText(f.Text) || !areScopes(f.Scopes) || f.From < 0 || len(f.Kids) > 0 {
-		return nil, false
+func openId(f ExpForm) (formId, bool) {
+	if f.Sort != ExpId || !isIdText(f.Text) || !areScopes(f.Scopes) || f.From < 0 || len(f.Kids) > 0 {
+		return formId{}, false
 	}
 	return formId{text: f.Text, scopes: sortedSet[int]{items: f.Scopes}, from: f.From}, true
 }

@@ -89,6 +89,19 @@ func (b boundNames) find(text string, scopes sortedSet[int]) (string, int) {
 	return nearest.name, 1
 }
 
+// same says whether two identifiers stand for the same name, or, having the same text, both for nothing.
+func (b boundNames) same(one, other formId) bool {
+	name, found := b.find(one.text, one.scopes)
+	otherName, otherFound := b.find(other.text, other.scopes)
+	if found != otherFound || found == 2 {
+		return false
+	}
+	if found == 1 {
+		return name == otherName
+	}
+	return one.text == other.text
+}
+
 // nearestOf is the last of those with the most scopes: if one has all scopes of all others, this one does.
 func nearestOf(fits []boundName) boundName {
 	nearest := fits[0]

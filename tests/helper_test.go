@@ -167,12 +167,21 @@ func shareSome(blocks []block) bool {
 // demandNewMemory fails, if lists of an answer share memory with one another or with what was handed in.
 func demandNewMemory(t *testing.T, what string, answer impl.ExpForm, given impl.ExpForm) {
 	t.Helper()
-	answers := append(blockOf(answer.Scopes), blocksOf(answer.Kids)...)
+	demandOwnBlocks(t, what, blocksWithin(answer), blocksWithin(given))
+}
+
+// blocksWithin are the blocks of the lists of a form.
+func blocksWithin(f impl.ExpForm) []block {
+	return append(blockOf(f.Scopes), blocksOf(f.Kids)...)
+}
+
+func demandOwnBlocks(t *testing.T, what string, answers, given []block) {
+	t.Helper()
 	if shareSome(answers) {
 		t.Errorf("%s: lists of the answer share memory", what)
 	}
 	for _, a := range answers {
-		for _, g := range append(blockOf(given.Scopes), blocksOf(given.Kids)...) {
+		for _, g := range given {
 			if shareSome([]block{a, g}) {
 				t.Errorf("%s: the answer shares memory with what was handed in", what)
 				return
@@ -186,7 +195,7 @@ func someOk() []impl.ExpForm {
 	name := strings.Repeat("n", impl.ExpMaxName)
 	return append(madeForms(),
 		id("a", 0), id("a", 1, 0), id("a", 7, 0, 1, 5), id("...", 2), id("_", 3, 9), id("-", 1), id("+5", 1), id("1a", 1), id("--1", 1), id("a.b", 1), id(".b", 1), id("..", 1), id("a#", 1), id("!", 1), id("}", 1),
-		atom("0"), atom("007"), atom("-5"), atom("-0"), atom("#t"), atom("#f"), atom("\"\""), atom("\"a (b) ' ~ #.\""), atom("\" \""),
+		atom("0"), atom("9"), atom("1234567890"), atom("007"), atom("-5"), atom("-0"), atom("#t"), atom("#f"), atom("\"\""), atom("\"a (b) ' ~ #.\""), atom("\" \""),
 		list(), list(list()), list(atom("1"), id("b", 4, 2)), list(id("quote", 1), id("x", 2)), list(list(id("a", 1, 3)), list(id("a", 2, 3, 4))),
 		dots(id("a", 1), id("b", 2)), dots(list(), atom("1")), dots(dots(id("a", 1, 1), id("b", 2, 2)), id("c", 3), id("d", 4, 1, 2)),
 		id(name, 1, 4), atom(strings.Repeat("1", impl.ExpMaxName)), atom("-"+strings.Repeat("1", impl.ExpMaxName-1)), atom("\""+strings.Repeat(" ", impl.ExpMaxName-2)+"\""),
