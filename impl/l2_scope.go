@@ -7,16 +7,12 @@ import (
 
 // ExpWith is a form to all of whose identifiers a scope is put.
 func ExpWith(f ExpForm, scope int) ExpForm {
-	return rescoped(f, scope, func(scopes sortedSet[int]) sortedSet[int] {
-		return scopes.with(scope)
-	})
+	return rescoped(f, scope, withScope)
 }
 
 // ExpFlip is a form to each of whose identifiers a scope is put, or from which it is taken.
 func ExpFlip(f ExpForm, scope int) ExpForm {
-	return rescoped(f, scope, func(scopes sortedSet[int]) sortedSet[int] {
-		return scopes.flipped(scope)
-	})
+	return rescoped(f, scope, flippedBy)
 }
 
 // ExpBind is a name that stands for identifiers of a text and of scopes.
@@ -35,16 +31,28 @@ func ExpFind(binds []ExpBind, id ExpForm) (string, int) {
 }
 
 // rescoped is a form whose identifiers have other scopes; nothing, if it is not ok, or the scope is none.
-func rescoped(f ExpForm, scope int, change func(sortedSet[int]) sortedSet[int]) ExpForm {
+func rescoped(f ExpForm, scope int, change func(form, int) form) ExpForm {
 	inner, ok := openForm(f)
 	if !ok || scope < 0 {
 		return ExpForm{}
 	}
-	other := inner.changed(func(id formId) formId {
-		id.scopes = change(id.scopes)
+	return change(inner, scope).plain()
+}
+
+// withScope answers as ExpWith does.
+func withScope(f form, scope int) form {
+	return f.changed(func(id formId) formId {
+		id.scopes = id.scopes.with(scope)
 		return id
 	})
-	return other.plain()
+}
+
+// flippedBy answers as ExpFlip does.
+func flippedBy(f form, scope int) form {
+	return f.changed(func(id formId) formId {
+		id.scopes = id.scopes.flipped(scope)
+		return id
+	})
 }
 
 // areScopes says whether scopes stand as an identifier that is ok has them.
@@ -170,4 +178,17 @@ func (s sortedSet[T]) within(other sortedSet[T]) bool {
 		}
 	}
 	return true
+}
+
+// same says whether both sets have the same items.
+func (s sortedSet[T]) same(other sortedSet[T]) bool {
+	return slices.Equal(s.items, other.items)
+}
+
+// without is the items of this set that the other one does not have.
+func (s sortedSet[T]) without(other sortedSet[T]) sortedSet[T] {
+	return sortedSet[T]{items: slices.DeleteFunc(s.list(), func(item T) bool {
+		_, has := slices.BinarySearch(other.items, item)
+		return has
+	})}
 }

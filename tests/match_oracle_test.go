@@ -94,13 +94,22 @@ func dotsWhereTheyMayBe(p impl.ExpForm) bool {
 	return met < 2 && (len(end) == 0 || !isDotsId(end[0]))
 }
 
+// comparing says whether a literal and an identifier stand for the same.
+type comparing func(literal, id impl.ExpForm) bool
+
+func comparingBy(binds []impl.ExpBind) comparing {
+	return func(literal, id impl.ExpForm) bool {
+		a, x := impl.ExpFind(binds, literal)
+		b, y := impl.ExpFind(binds, id)
+		return x == y && (x == 1 && a == b || x == 0 && literal.Text == id.Text)
+	}
+}
+
 // wantMatch is what ExpMatch must answer, the pattern and the form being ok.
-func wantMatch(p impl.ExpForm, literals []impl.ExpForm, f impl.ExpForm, binds []impl.ExpBind) ([]impl.ExpGot, bool) {
+func wantMatch(p impl.ExpForm, literals []impl.ExpForm, f impl.ExpForm, same comparing) ([]impl.ExpGot, bool) {
 	switch {
 	case hasId(literals, p):
-		a, x := impl.ExpFind(binds, p)
-		b, y := impl.ExpFind(binds, f)
-		return nil, f.Sort == impl.ExpId && x == y && (x == 1 && a == b || x == 0 && p.Text == f.Text)
+		return nil, f.Sort == impl.ExpId && same(p, f)
 	case isBlankId(p):
 		return nil, true
 	case p.Sort == impl.ExpId:
@@ -111,23 +120,23 @@ func wantMatch(p impl.ExpForm, literals []impl.ExpForm, f impl.ExpForm, binds []
 	parts, end := partsAndEnd(p)
 	given, rest := partsAndEnd(f)
 	if at := slices.IndexFunc(parts, isDotsId); at > 0 {
-		return wantMatchRepeated(parts[:at-1], parts[at-1], parts[at+1:], end, given, rest, literals, binds)
+		return wantMatchRepeated(parts[:at-1], parts[at-1], parts[at+1:], end, given, rest, literals, same)
 	}
 	if len(given) < len(parts) || len(end) == 0 && (len(rest) > 0 || len(given) > len(parts)) {
 		return nil, false
 	}
-	all, ok := wantMatchEach(parts, given[:len(parts)], literals, binds)
+	all, ok := wantMatchEach(parts, given[:len(parts)], literals, same)
 	if !ok || len(end) == 0 {
 		return all, ok
 	}
-	last, ok := wantMatch(end[0], literals, joined(given[len(parts):], rest), binds)
+	last, ok := wantMatch(end[0], literals, joined(given[len(parts):], rest), same)
 	return append(all, last...), ok
 }
 
-func wantMatchEach(parts, given, literals []impl.ExpForm, binds []impl.ExpBind) ([]impl.ExpGot, bool) {
+func wantMatchEach(parts, given, literals []impl.ExpForm, same comparing) ([]impl.ExpGot, bool) {
 	var all []impl.ExpGot
 	for i, part := range parts {
-		some, ok := wantMatch(part, literals, given[i], binds)
+		some, ok := wantMatch(part, literals, given[i], same)
 		if !ok {
 			return nil, false
 		}
@@ -136,15 +145,18 @@ func wantMatchEach(parts, given, literals []impl.ExpForm, binds []impl.ExpBind) 
 	return all, true
 }
 
-func wantMatchRepeated(ahead []impl.ExpForm, part impl.ExpForm, behind, end, given, rest, literals []impl.ExpForm, binds []impl.ExpBind) ([]impl.ExpGot, bool) {
+func wantMatchRepeated(ahead []impl.ExpForm, part impl.ExpForm, behind, end, given, rest, literals []impl.ExpForm, same comparing) ([]impl.ExpGot, bool) {
 	times := len(given) - len(ahead) - len(behind)
 	if times < 0 || len(end) == 0 && len(rest) > 0 {
 		return nil, false
 	}
-	all, aheadOk := wantMatchEach(ahead, given[:len(ahead)], literals, binds)
+	all, aheadOk := wantMatchEach(ahead, given[:len(ahead)], literals, same)
+	if !aheadOk {
+		return nil, false
+	}
 	several := noTimes(part, literals)
 	for _, f := range given[len(ahead) : len(ahead)+times] {
-		time, ok := wantMatch(part, literals, f, binds)
+		time, ok := wantMatch(part, literals, f, same)
 		if !ok {
 			return nil, false
 		}
@@ -152,12 +164,12 @@ func wantMatchRepeated(ahead []impl.ExpForm, part impl.ExpForm, behind, end, giv
 			several[i].Many = append(several[i].Many, time[i])
 		}
 	}
-	others, behindOk := wantMatchEach(behind, given[len(ahead)+times:], literals, binds)
+	others, behindOk := wantMatchEach(behind, given[len(ahead)+times:], literals, same)
 	all = append(append(all, several...), others...)
-	if !aheadOk || !behindOk || len(end) == 0 {
-		return all, aheadOk && behindOk
+	if !behindOk || len(end) == 0 {
+		return all, behindOk
 	}
-	last, ok := wantMatch(end[0], literals, joined(nil, rest), binds)
+	last, ok := wantMatch(end[0], literals, joined(nil, rest), same)
 	return append(all, last...), ok
 }
 

@@ -339,7 +339,7 @@ func TestMatchOfMadeForms(t *testing.T) {
 		if !impl.ExpPatternOk(p, someLiterals()) || !impl.ExpFormOk(f) {
 			t.Fatalf("%s: made wrongly", impl.ExpShow(p))
 		}
-		want, matches := wantMatch(p, someLiterals(), f, binds)
+		want, matches := wantMatch(p, someLiterals(), f, comparingBy(binds))
 		if !matches {
 			want = nil
 		}
