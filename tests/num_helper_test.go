@@ -246,9 +246,14 @@ func (m *numMaker) digits(most int) string {
 
 // number is a number that is ok.
 func (m *numMaker) number() impl.Num {
-	up, down := m.digits(impl.NumMaxDigits), "1"
+	return m.numberUpTo(impl.NumMaxDigits)
+}
+
+// numberUpTo is a number that is ok, of at most so many digits above, and below.
+func (m *numMaker) numberUpTo(most int) impl.Num {
+	up, down := m.digits(most), "1"
 	if m.below(3) > 0 {
-		down = m.digits(impl.NumMaxDigits)
+		down = m.digits(most)
 	}
 	if m.below(20) == 0 {
 		up = "0"
