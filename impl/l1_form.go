@@ -37,7 +37,9 @@ func ExpRead(text string) ([]ExpForm, bool) {
 	if len(text) > ExpMaxText {
 		return nil, false
 	}
-	forms, ok := readForms(text)
+	forms, ok := demanded(func() []form {
+		return readPieces(text, &formMaker{}, ExpMaxDeep)
+	})
 	if !ok || sizeOfAll(forms) > ExpMaxForms {
 		return nil, false
 	}
@@ -133,26 +135,40 @@ func (f formAtom) show(out *strings.Builder) {
 }
 
 func (f formList) show(out *strings.Builder) {
-	out.WriteString("(")
-	showAll(f.parts, out)
-	out.WriteString(")")
+	showList(f.parts, out)
 }
 
 func (f formDots) show(out *strings.Builder) {
-	out.WriteString("(")
-	showAll(f.parts, out)
-	out.WriteString(" . ")
-	f.end.show(out)
-	out.WriteString(")")
+	showDotted(f.parts, f.end, out)
 }
 
-func showAll(forms []form, out *strings.Builder) {
-	for i, f := range forms {
+// shown is what can be written.
+type shown interface {
+	show(out *strings.Builder)
+}
+
+func showAll[T shown](all []T, out *strings.Builder) {
+	for i, one := range all {
 		if i > 0 {
 			out.WriteString(" ")
 		}
-		f.show(out)
+		one.show(out)
 	}
+}
+
+func showList[T shown](parts []T, out *strings.Builder) {
+	out.WriteString("(")
+	showAll(parts, out)
+	out.WriteString(")")
+}
+
+// showDotted writes a list that ends in something.
+func showDotted[T shown](parts []T, end T, out *strings.Builder) {
+	out.WriteString("(")
+	showAll(parts, out)
+	out.WriteString(" . ")
+	end.show(out)
+	out.WriteString(")")
 }
 
 func (f formId) size() int {
@@ -375,10 +391,15 @@ func isAtomText(text string) bool {
 }
 
 func isIdText(text string) bool {
-	if text == "" || len(text) > ExpMaxName || text == "." || text[0] == '#' || isAtomText(text) {
+	return isWordText(text, ExpMaxName) && !strings.Contains(text, "~") && !isAtomText(text)
+}
+
+// isWordText says whether a text, read by itself, is one word that could name something, unless it is something by itself.
+func isWordText(text string, longest int) bool {
+	if text == "" || len(text) > longest || text == "." || text[0] == '#' {
 		return false
 	}
-	return hasBytesFrom(33, text) && !strings.ContainsAny(text, "()\"'~")
+	return hasBytesFrom(33, text) && !strings.ContainsAny(text, "()\"'")
 }
 
 func isStringText(text string) bool {
@@ -443,7 +464,7 @@ func pieceEnd(text string, at int) int {
 	return at + 1 + length + past
 }
 
-// readFault is what the reader panics with at a text that is none.
+// readFault is what a reader panics with at a text that is none.
 type readFault struct{}
 
 func demand(holds bool) {
@@ -452,21 +473,8 @@ func demand(holds bool) {
 	}
 }
 
-// formReader has what was begun and not ended: first the text itself, then the lists, each within the one ahead of it.
-type formReader struct {
-	begun []begunList
-	froms int
-}
-
-// begunList has quoted, if a ' began it, and dotted, if the word . has come.
-type begunList struct {
-	parts  []form
-	quoted bool
-	dotted bool
-	end    form
-}
-
-func readForms(text string) (forms []form, ok bool) {
+// demanded is what is read, and whether all that was demanded meanwhile held.
+func demanded[T any](read func() T) (answer T, ok bool) {
 	defer func() {
 		fault := recover()
 		if fault == nil {
@@ -475,96 +483,133 @@ func readForms(text string) (forms []form, ok bool) {
 		if _, own := fault.(readFault); !own {
 			panic(fault)
 		}
-		forms, ok = nil, false
 	}()
-	r := formReader{begun: make([]begunList, 1)}
+	return read(), true
+}
+
+// pieceMaker makes what the pieces of a text are read as; what may not be it demands.
+type pieceMaker[T any] interface {
+	word(text string) T
+	list(parts []T) T
+	// dotted is the list of parts, maybe of none, behind which a word . and an end stood.
+	dotted(parts []T, end T) T
+}
+
+// pieceReader has what was begun and not ended: first the text itself, then the lists, each within the one ahead of it.
+type pieceReader[T any] struct {
+	maker   pieceMaker[T]
+	deepest int
+	begun   []begunList[T]
+}
+
+// begunList has quoted, if a ' began it, dotted, if the word . has come, and ended, if its end has.
+type begunList[T any] struct {
+	parts  []T
+	quoted bool
+	dotted bool
+	ended  bool
+	end    T
+}
+
+// readPieces reads all of a text, of which nothing may be within more lists than deepest.
+func readPieces[T any](text string, maker pieceMaker[T], deepest int) []T {
+	r := pieceReader[T]{maker: maker, deepest: deepest, begun: make([]begunList[T], 1)}
 	for piece := range pieces(text) {
 		r.take(piece)
 	}
 	demand(len(r.begun) == 1)
-	return r.begun[0].parts, true
+	return r.begun[0].parts
 }
 
-func (r *formReader) take(piece string) {
+func (r *pieceReader[T]) take(piece string) {
 	switch piece {
 	case "(":
-		r.begin(begunList{})
+		r.begin(begunList[T]{})
 	case "'":
-		r.begin(begunList{quoted: true, parts: []form{r.identifier("quote")}})
+		r.begin(begunList[T]{quoted: true, parts: []T{r.maker.word("quote")}})
 	case ")":
 		r.endList()
 	case ".":
 		r.dot()
 	default:
-		r.word(piece)
+		r.demandRoom()
+		r.put(r.maker.word(piece))
 	}
 }
 
-func (r *formReader) begin(list begunList) {
+func (r *pieceReader[T]) begin(list begunList[T]) {
 	r.demandRoom()
 	r.begun = append(r.begun, list)
 }
 
-// demandRoom counts lists as they are written: one that ends a list comes to be no list of its own, but counts.
-func (r *formReader) demandRoom() {
-	demand(len(r.begun)-1 <= ExpMaxDeep)
+// demandRoom counts lists as they are written: one that ends a list may come to be no list of its own, but counts.
+func (r *pieceReader[T]) demandRoom() {
+	demand(len(r.begun)-1 <= r.deepest)
 }
 
-func (r *formReader) endList() {
+func (r *pieceReader[T]) endList() {
 	list := r.innermost()
-	demand(len(r.begun) > 1 && !list.quoted && list.dotted == (list.end != nil))
+	demand(len(r.begun) > 1 && !list.quoted && list.dotted == list.ended)
 	r.end()
 }
 
 // end takes the innermost list, which has all its parts, into the one around it.
-func (r *formReader) end() {
-	whole := r.innermost().whole()
+func (r *pieceReader[T]) end() {
+	whole := r.whole(r.innermost())
 	r.begun = r.begun[:len(r.begun)-1]
 	r.put(whole)
 }
 
-func (r *formReader) dot() {
+func (r *pieceReader[T]) whole(list *begunList[T]) T {
+	if list.dotted {
+		return r.maker.dotted(list.parts, list.end)
+	}
+	return r.maker.list(list.parts)
+}
+
+func (r *pieceReader[T]) dot() {
 	list := r.innermost()
-	demand(len(r.begun) > 1 && !list.quoted && !list.dotted && len(list.parts) > 0)
+	demand(len(r.begun) > 1 && !list.quoted && !list.dotted)
 	list.dotted = true
 }
 
-func (r *formReader) word(text string) {
-	r.demandRoom()
-	if isAtomText(text) {
-		r.put(formAtom{text: text})
-		return
-	}
-	demand(isIdText(text))
-	r.put(r.identifier(text))
-}
-
-func (r *formReader) identifier(text string) formId {
-	r.froms++
-	return formId{text: text, from: r.froms}
-}
-
-// put puts a form into the innermost list; one that a ' began is ended by it.
-func (r *formReader) put(f form) {
+// put puts what was read into the innermost list; one that a ' began is ended by it.
+func (r *pieceReader[T]) put(read T) {
 	list := r.innermost()
 	if list.dotted {
-		demand(list.end == nil)
-		list.end = f
+		demand(!list.ended)
+		list.end, list.ended = read, true
 		return
 	}
-	list.parts = append(list.parts, f)
+	list.parts = append(list.parts, read)
 	if list.quoted {
 		r.end()
 	}
 }
 
-func (r *formReader) innermost() *begunList {
+func (r *pieceReader[T]) innermost() *begunList[T] {
 	return &r.begun[len(r.begun)-1]
 }
 
-func (l *begunList) whole() form {
-	if l.end == nil {
-		return formList{parts: l.parts}
+// formMaker makes forms, and counts the identifiers.
+type formMaker struct {
+	froms int
+}
+
+func (m *formMaker) word(text string) form {
+	if isAtomText(text) {
+		return formAtom{text: text}
 	}
-	return l.end.endOf(l.parts)
+	demand(isIdText(text))
+	m.froms++
+	return formId{text: text, from: m.froms}
+}
+
+func (m *formMaker) list(parts []form) form {
+	return formList{parts: parts}
+}
+
+func (m *formMaker) dotted(parts []form, end form) form {
+	demand(len(parts) > 0)
+	return end.endOf(parts)
 }
